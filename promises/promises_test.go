@@ -1,0 +1,325 @@
+// Package promises tests what the document promises for all chapters (P1 to P4), of every call that has landed.
+package promises
+
+import (
+	"math"
+	"reflect"
+	"slices"
+	"sync"
+	"testing"
+
+	"pleach/api"
+	"pleach/chunk"
+	"pleach/rows"
+	"pleach/tree"
+)
+
+// given is what a call is handed; each takes of it what it asks for.
+type given struct {
+	Rows []api.Row
+	Tree [][][]api.Row
+	One  int
+	Two  int
+}
+
+// call of the program, with all its results in a list.
+type call struct {
+	name string
+	run  func(g given) []any
+}
+
+func results(a ...any) []any { return a }
+
+func calls() []call {
+	return []call{
+		{"rows.Check", func(g given) []any { return results(rows.Check(g.Rows)) }},
+		{"rows.Find", func(g given) []any { return results(rows.Find(g.Rows, g.One)) }},
+		{"rows.Put", func(g given) []any { return results(rows.Put(g.Rows, g.One, g.Two)) }},
+		{"chunk.Ends", func(g given) []any { return results(chunk.Ends(api.Row{Key: g.One, Val: g.Two}, g.Two)) }},
+		{"chunk.Cut", func(g given) []any { return results(chunk.Cut(g.Rows, g.One)) }},
+		{"chunk.Sum", func(g given) []any { return results(chunk.Sum(g.Rows)) }},
+		{"tree.Build", func(g given) []any { return results(tree.Build(g.Rows)) }},
+		{"tree.Check", func(g given) []any { return results(tree.Check(g.Tree)) }},
+		{"tree.Rows", func(g given) []any { return results(tree.Rows(g.Tree)) }},
+		{"tree.Root", func(g given) []any { return results(tree.Root(g.Tree)) }},
+	}
+}
+
+// someRows has right rows and wrong ones, each with spare room behind it that has something in it.
+func someRows() [][]api.Row {
+	var steps, full []api.Row
+	for k := range 40 {
+		steps = append(steps, api.Row{Key: 2 * k, Val: 25 * k})
+		full = append(full, api.Row{Key: 60 + k, Val: 996})
+	}
+	all := [][]api.Row{
+		nil, {}, steps[:1], steps[:2], steps[:6], steps[:7], steps[:12], steps[:39], steps, full,
+		{{Key: 7}, {Key: 7}}, {{Key: 7}, {Key: 2}}, {{Key: -1}}, {{Key: 100}}, {{Val: -1}}, {{Val: 997}},
+		{{Key: math.MinInt, Val: math.MinInt}, {Key: math.MaxInt, Val: math.MaxInt}},
+		make([]api.Row, 40), make([]api.Row, 41), make([]api.Row, 100),
+	}
+	for i, l := range all {
+		all[i] = roomy(l, api.Row{Key: 98, Val: 77})
+	}
+	return all
+}
+
+// roomy is a list of its own memory with three of spare behind it.
+func roomy[T any](l []T, spare T) []T {
+	return append(slices.Clone(l), spare, spare, spare)[:len(l)]
+}
+
+func someTrees() [][][][]api.Row {
+	trees := [][][][]api.Row{nil, {}, {{}}, {{{}}}, {nil, nil}, {{nil, nil}}, make([][][]api.Row, 100)}
+	for _, l := range someRows() {
+		trees = append(trees, [][][]api.Row{{l}}, [][][]api.Row{{l}, {l, l}})
+		if t, e := tree.Build(l); e == api.OK {
+			trees = append(trees, t)
+		}
+	}
+	for i, t := range trees {
+		for n, level := range t {
+			level = slices.Clone(level)
+			for j, c := range level {
+				level[j] = roomy(c, api.Row{Key: 98, Val: 77})
+			}
+			t[n] = roomy(level, []api.Row{{Key: 97, Val: 76}})
+		}
+		trees[i] = roomy(t, [][]api.Row{{{Key: 96, Val: 75}}})
+	}
+	return trees
+}
+
+func someNumbers() []int {
+	return []int{math.MinInt, -2, -1, 0, 1, 9, 10, 79, 99, 100, 996, 997, math.MaxInt}
+}
+
+// some has all that the calls are tried with.
+func some() []given {
+	var all []given
+	for _, l := range someRows() {
+		for _, one := range someNumbers() {
+			for _, two := range someNumbers() {
+				all = append(all, given{Rows: l, One: one, Two: two})
+			}
+		}
+	}
+	for _, t := range someTrees() {
+		all = append(all, given{Tree: t})
+	}
+	return all
+}
+
+// deep is a copy that shares nothing, with what stands in the spare room of lists as well.
+func deep(v reflect.Value) reflect.Value {
+	switch v.Kind() {
+	case reflect.Slice:
+		if v.IsNil() {
+			return v
+		}
+		out := reflect.MakeSlice(v.Type(), v.Cap(), v.Cap())
+		for i := range v.Cap() {
+			out.Index(i).Set(deep(v.Slice(0, v.Cap()).Index(i)))
+		}
+		return out
+	case reflect.Struct:
+		out := reflect.New(v.Type()).Elem()
+		for i := range v.NumField() {
+			out.Field(i).Set(deep(v.Field(i)))
+		}
+		return out
+	case reflect.Interface:
+		return deep(v.Elem())
+	}
+	return v
+}
+
+func copied(v any) any { return deep(reflect.ValueOf(v)).Interface() }
+
+// room is where a list lies in memory, its spare room too.
+type room struct{ from, to uintptr }
+
+// rooms of all lists in a value.
+func rooms(v reflect.Value) []room {
+	var all []room
+	switch v.Kind() {
+	case reflect.Slice:
+		if v.Cap() > 0 {
+			all = append(all, room{v.Pointer(), v.Pointer() + uintptr(v.Cap())*v.Type().Elem().Size()})
+		}
+		for i := range v.Len() {
+			all = append(all, rooms(v.Index(i))...)
+		}
+	case reflect.Struct:
+		for i := range v.NumField() {
+			all = append(all, rooms(v.Field(i))...)
+		}
+	case reflect.Interface:
+		return rooms(v.Elem())
+	}
+	return all
+}
+
+func meet(a, b room) bool { return a.from < b.to && b.from < a.to }
+
+// zero: a list of no elements counts, nil or not.
+func zero(v any) bool {
+	r := reflect.ValueOf(v)
+	return r.IsZero() || r.Kind() == reflect.Slice && r.Len() == 0
+}
+
+func TestP1NoPanicAndZeroWithAnError(t *testing.T) {
+	for _, g := range some() {
+		for _, c := range calls() {
+			answer := c.run(g)
+			last := len(answer) - 1
+			e, ok := answer[last].(api.Errno)
+			if !ok || e == api.OK {
+				continue
+			}
+			for _, v := range answer[:last] {
+				if !zero(v) {
+					t.Errorf("%s: with error %d it answers %v", c.name, e, v)
+				}
+			}
+		}
+	}
+}
+
+func TestP2WhatIsHandedInIsOnlyRead(t *testing.T) {
+	for _, g := range some() {
+		was := copied(g)
+		for _, c := range calls() {
+			c.run(g)
+			if !reflect.DeepEqual(copied(g), was) {
+				t.Fatalf("%s changed %v, which was %v", c.name, g, was)
+			}
+		}
+	}
+}
+
+func TestP2AnswersAreNewMemory(t *testing.T) {
+	for _, g := range some() {
+		in := rooms(reflect.ValueOf(g))
+		for _, c := range calls() {
+			out := rooms(reflect.ValueOf(c.run(g)))
+			for i, a := range out {
+				if slices.ContainsFunc(in, func(b room) bool { return meet(a, b) }) {
+					t.Fatalf("%s: an answer has memory of what was handed in", c.name)
+				}
+				if slices.ContainsFunc(out[:i], func(b room) bool { return meet(a, b) }) {
+					t.Fatalf("%s: two lists of an answer share memory", c.name)
+				}
+			}
+		}
+	}
+}
+
+func TestP2NilAndEmptyAreTheSame(t *testing.T) {
+	for _, one := range someNumbers() {
+		for _, two := range someNumbers() {
+			for _, c := range calls() {
+				a := c.run(given{One: one, Two: two})
+				b := c.run(given{Rows: []api.Row{}, Tree: [][][]api.Row{}, One: one, Two: two})
+				for i := range a {
+					if !reflect.DeepEqual(a[i], b[i]) && !(zero(a[i]) && zero(b[i])) {
+						t.Errorf("%s: %v of nil, %v of an empty list", c.name, a, b)
+					}
+				}
+			}
+		}
+	}
+}
+
+// answers of all calls for each thing that is given.
+func answers(all []given) [][]any {
+	var out [][]any
+	for _, g := range all {
+		for _, c := range calls() {
+			out = append(out, c.run(g))
+		}
+	}
+	return out
+}
+
+func TestP3TheSameAnswerEachTime(t *testing.T) {
+	all := some()
+	want := answers(all)
+	slices.Reverse(all)
+	back := answers(all) // ahead of each stands now another one
+	slices.Reverse(all)
+	per := len(calls())
+	for i := range all {
+		turned := len(all) - 1 - i
+		if !reflect.DeepEqual(want[i*per:(i+1)*per], back[turned*per:(turned+1)*per]) {
+			t.Fatalf("of %v: another answer in another order", all[i])
+		}
+	}
+}
+
+// Whoever writes into an answer changes no later one.
+func TestP3AnswersAreTheCallers(t *testing.T) {
+	for _, g := range some() {
+		for _, c := range calls() {
+			first := c.run(g)
+			was := copied(first)
+			spoil(reflect.ValueOf(first))
+			if now := copied(c.run(g)); !reflect.DeepEqual(now, was) {
+				t.Fatalf("%s: %v, and then %v", c.name, was, now)
+			}
+		}
+	}
+}
+
+// spoil writes into all lists of an answer.
+func spoil(v reflect.Value) {
+	switch v.Kind() {
+	case reflect.Interface:
+		spoil(v.Elem())
+	case reflect.Slice:
+		for i := range v.Len() {
+			spoil(v.Index(i))
+		}
+	case reflect.Struct:
+		for i := range v.NumField() {
+			spoil(v.Field(i))
+		}
+	case reflect.Int:
+		if v.CanSet() {
+			v.SetInt(-9)
+		}
+	}
+}
+
+func TestP3TheSameAnswerSideBySide(t *testing.T) {
+	all := some()
+	want := answers(all)
+	var wait sync.WaitGroup
+	for range 4 {
+		wait.Go(func() {
+			if !reflect.DeepEqual(answers(all), want) {
+				t.Error("another answer, side by side with others")
+			}
+		})
+	}
+	wait.Wait()
+}
+
+// Within the bound of P4, limits that a chapter names have their own answers.
+func TestP4GreatLists(t *testing.T) {
+	l := make([]api.Row, 1<<22)
+	for _, c := range calls() {
+		g := given{Rows: l, Tree: [][][]api.Row{{l}}, One: 5, Two: 5}
+		answer := c.run(g)
+		want := api.ErrMany
+		switch c.name {
+		case "chunk.Ends":
+			continue
+		case "tree.Check", "tree.Rows", "tree.Root":
+			want = api.ErrForm
+		}
+		if e := answer[len(answer)-1]; e != want {
+			t.Errorf("%s is %v, not %d", c.name, e, want)
+		}
+	}
+}
