@@ -9,37 +9,14 @@ import (
 
 	"pleach/api"
 	"pleach/chunk"
+	"pleach/sample"
 )
-
-func few() []api.Row { return []api.Row{{Key: 2, Val: 5}, {Key: 7, Val: 0}, {Key: 9, Val: 30}} }
-
-// twelve rows, those of the document's examples.
-func twelve() []api.Row {
-	var l []api.Row
-	for k := range 12 {
-		l = append(l, api.Row{Key: 3 * k, Val: k})
-	}
-	return l
-}
 
 // ending has rows whose remainders at level 0 are those that are given: 7 * Key + 13 * Val is Key + Val, by 3.
 func ending(remainders ...int) []api.Row {
 	var l []api.Row
 	for k, m := range remainders {
 		l = append(l, api.Row{Key: k, Val: (m + 2*k) % 3})
-	}
-	return l
-}
-
-// drawn rows: the same ones for the same seed.
-func drawn(seed uint64, n int) []api.Row {
-	next := func(n int) int {
-		seed = seed*6364136223846793005 + 1442695040888963407
-		return int(seed >> 33 % uint64(n))
-	}
-	var l []api.Row
-	for k := next(3); k <= api.MaxKey && len(l) < n; k += 1 + next(3) {
-		l = append(l, api.Row{Key: k, Val: next(api.MaxVal + 1)})
 	}
 	return l
 }
@@ -62,7 +39,7 @@ func wrongRows(name string) []api.Row {
 	if name == "many" {
 		return make([]api.Row, 41)
 	}
-	l := few()
+	l := sample.Few()
 	l[2].Val = 997
 	return l
 }
@@ -108,7 +85,7 @@ func checkEndsNot(t *testing.T, key, val, level int) {
 
 // The document's second example.
 func TestB1TwelveRowsAreFourChunks(t *testing.T) {
-	l := twelve()
+	l := sample.Twelve()
 	want := [][]api.Row{l[0:4], l[4:7], l[7:10], l[10:12]}
 	if c, e := chunk.Cut(l, 0); e != api.OK || !reflect.DeepEqual(c, want) {
 		t.Errorf("Cut is %v %d, not %v", c, e, want)
@@ -176,7 +153,7 @@ func checkCut(t *testing.T, l []api.Row, level int, c [][]api.Row) {
 
 func TestB1CutAtEveryLevel(t *testing.T) {
 	for seed := range uint64(200) {
-		l := drawn(seed, int(seed%41))
+		l := sample.Drawn(seed, int(seed%41))
 		for level := range 10 {
 			c, e := chunk.Cut(l, level)
 			if e != api.OK {
@@ -190,7 +167,7 @@ func TestB1CutAtEveryLevel(t *testing.T) {
 // What stands behind a chunk is cut as it would be alone.
 func TestB1CutBehindAChunkIsAsAlone(t *testing.T) {
 	for seed := range uint64(100) {
-		l := drawn(seed, 40)
+		l := sample.Drawn(seed, 40)
 		level := int(seed % 10)
 		c, _ := chunk.Cut(l, level)
 		from := 0
@@ -213,7 +190,7 @@ func TestB1CutErrors(t *testing.T) {
 		}
 	}
 	for _, level := range []int{math.MinInt, -1, 10, math.MaxInt} {
-		for _, l := range [][]api.Row{nil, few()} {
+		for _, l := range [][]api.Row{nil, sample.Few()} {
 			if c, e := chunk.Cut(l, level); len(c) > 0 || e != api.ErrRange {
 				t.Errorf("Cut of %v at %d is %v %d", l, level, c, e)
 			}
@@ -237,7 +214,7 @@ func TestB2Sum(t *testing.T) {
 		{[]api.Row{{Val: 964}}, 996},
 		{[]api.Row{{Val: 965}}, 0},
 		{[]api.Row{{Key: 99, Val: 996}}, 724},
-		{few(), 805},
+		{sample.Few(), 805},
 		{full, longSum(full)},
 	} {
 		if n, e := chunk.Sum(c.l); n != c.want || e != api.OK {
@@ -258,7 +235,7 @@ func longSum(l []api.Row) int {
 
 func TestB2SumOfDrawnRows(t *testing.T) {
 	for seed := range uint64(200) {
-		l := drawn(seed, int(seed%41))
+		l := sample.Drawn(seed, int(seed%41))
 		if n, e := chunk.Sum(l); n != longSum(l) || e != api.OK {
 			t.Errorf("Sum of %v is %d %d, not %d", l, n, e, longSum(l))
 		}

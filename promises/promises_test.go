@@ -10,16 +10,19 @@ import (
 
 	"pleach/api"
 	"pleach/chunk"
+	"pleach/edit"
 	"pleach/rows"
+	"pleach/seek"
 	"pleach/tree"
 )
 
 // given is what a call is handed; each takes of it what it asks for.
 type given struct {
-	Rows []api.Row
-	Tree [][][]api.Row
-	One  int
-	Two  int
+	Rows    []api.Row
+	Tree    [][][]api.Row
+	Changes []api.Change
+	One     int
+	Two     int
 }
 
 // call of the program, with all its results in a list.
@@ -42,6 +45,10 @@ func calls() []call {
 		{"tree.Check", func(g given) []any { return results(tree.Check(g.Tree)) }},
 		{"tree.Rows", func(g given) []any { return results(tree.Rows(g.Tree)) }},
 		{"tree.Root", func(g given) []any { return results(tree.Root(g.Tree)) }},
+		{"seek.Find", func(g given) []any { return results(seek.Find(g.Tree, g.One)) }},
+		{"seek.Range", func(g given) []any { return results(seek.Range(g.Tree, g.One, g.Two)) }},
+		{"edit.Put", func(g given) []any { return results(edit.Put(g.Tree, g.One, g.Two)) }},
+		{"edit.All", func(g given) []any { return results(edit.All(g.Tree, g.Changes)) }},
 	}
 }
 
@@ -90,6 +97,20 @@ func someTrees() [][][][]api.Row {
 	return trees
 }
 
+// someChanges has right changes and wrong ones, each with spare room behind it.
+func someChanges() [][]api.Change {
+	all := [][]api.Change{
+		{}, {{Key: 4, Old: 50, New: 9}}, {{Key: 98, Old: api.None, New: 996}, {Key: 2, Old: 25, New: api.None}},
+		{{Key: 3, New: 7}, {Key: 3, New: 7}}, {{Key: -1}}, {{Key: 100}}, {{New: -2}}, {{New: 997}},
+		{{Key: math.MinInt, Old: math.MinInt, New: math.MinInt}, {Key: math.MaxInt, Old: math.MaxInt, New: math.MaxInt}},
+		make([]api.Change, 100), make([]api.Change, 101),
+	}
+	for i, d := range all {
+		all[i] = roomy(d, api.Change{Key: 97, Old: 96, New: 95})
+	}
+	return all
+}
+
 func someNumbers() []int {
 	return []int{math.MinInt, -2, -1, 0, 1, 9, 10, 79, 99, 100, 996, 997, math.MaxInt}
 }
@@ -105,7 +126,14 @@ func some() []given {
 		}
 	}
 	for _, t := range someTrees() {
-		all = append(all, given{Tree: t})
+		for _, one := range []int{-1, 0, 9, 99, 100} {
+			for _, two := range []int{-1, 9, 99, 997} {
+				all = append(all, given{Tree: t, One: one, Two: two})
+			}
+		}
+		for _, d := range someChanges() {
+			all = append(all, given{Tree: t, Changes: d})
+		}
 	}
 	return all
 }
@@ -220,7 +248,7 @@ func TestP2NilAndEmptyAreTheSame(t *testing.T) {
 		for _, two := range someNumbers() {
 			for _, c := range calls() {
 				a := c.run(given{One: one, Two: two})
-				b := c.run(given{Rows: []api.Row{}, Tree: [][][]api.Row{}, One: one, Two: two})
+				b := c.run(given{Rows: []api.Row{}, Tree: [][][]api.Row{}, Changes: []api.Change{}, One: one, Two: two})
 				for i := range a {
 					if !reflect.DeepEqual(a[i], b[i]) && !(zero(a[i]) && zero(b[i])) {
 						t.Errorf("%s: %v of nil, %v of an empty list", c.name, a, b)
@@ -308,16 +336,20 @@ func TestP3TheSameAnswerSideBySide(t *testing.T) {
 // Within the bound of P4, limits that a chapter names have their own answers.
 func TestP4GreatLists(t *testing.T) {
 	l := make([]api.Row, 1<<22)
+	wide := given{Rows: l, Tree: [][][]api.Row{{l}}, One: 5, Two: 5}
+	checkAnswers(t, wide, api.ErrMany, "rows.Check", "rows.Find", "rows.Put", "chunk.Cut", "chunk.Sum", "tree.Build")
+	checkAnswers(t, wide, api.ErrForm, "tree.Check", "tree.Rows", "tree.Root", "seek.Find", "seek.Range", "edit.Put", "edit.All")
+	checkAnswers(t, given{Changes: make([]api.Change, 1<<20)}, api.ErrMany, "edit.All")
+}
+
+// checkAnswers wants that error of the calls that are named.
+func checkAnswers(t *testing.T, g given, want api.Errno, names ...string) {
+	t.Helper()
 	for _, c := range calls() {
-		g := given{Rows: l, Tree: [][][]api.Row{{l}}, One: 5, Two: 5}
-		answer := c.run(g)
-		want := api.ErrMany
-		switch c.name {
-		case "chunk.Ends":
+		if !slices.Contains(names, c.name) {
 			continue
-		case "tree.Check", "tree.Rows", "tree.Root":
-			want = api.ErrForm
 		}
+		answer := c.run(g)
 		if e := answer[len(answer)-1]; e != want {
 			t.Errorf("%s is %v, not %d", c.name, e, want)
 		}

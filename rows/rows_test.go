@@ -8,9 +8,8 @@ import (
 
 	"pleach/api"
 	"pleach/rows"
+	"pleach/sample"
 )
-
-func few() []api.Row { return []api.Row{{Key: 2, Val: 5}, {Key: 7, Val: 0}, {Key: 9, Val: 30}} }
 
 // even rows: n of them, with the keys 0, 2, 4 ..
 func even(n int) []api.Row {
@@ -21,9 +20,9 @@ func even(n int) []api.Row {
 	return l
 }
 
-// with is few, one row of it another.
+// with is the few rows, one of them another.
 func with(at int, r api.Row) []api.Row {
-	l := few()
+	l := sample.Few()
 	l[at] = r
 	return l
 }
@@ -62,7 +61,7 @@ func TestA1CheckRight(t *testing.T) {
 	for name, l := range map[string][]api.Row{
 		"nil":          nil,
 		"empty":        {},
-		"few":          few(),
+		"few":          sample.Few(),
 		"key 0, val 0": {{}},
 		"all bounds":   {{Key: 0, Val: 0}, {Key: 1, Val: 996}, {Key: 99, Val: 996}},
 		"neighbours":   {{Key: 98}, {Key: 99}},
@@ -98,7 +97,7 @@ func TestA1OthersTellItFirst(t *testing.T) {
 }
 
 func TestA1KeyOutOfRange(t *testing.T) {
-	for _, l := range [][]api.Row{nil, few(), even(40)} {
+	for _, l := range [][]api.Row{nil, sample.Few(), even(40)} {
 		for _, key := range []int{math.MinInt, -1, 100, math.MaxInt} {
 			if v, e := rows.Find(l, key); v != 0 || e != api.ErrRange {
 				t.Errorf("Find %d is %d %d", key, v, e)
@@ -115,11 +114,11 @@ func TestA1KeyOutOfRange(t *testing.T) {
 // The document's first example.
 func TestA2Example(t *testing.T) {
 	for key, want := range map[int]int{7: 0, 8: api.None} {
-		if v, e := rows.Find(few(), key); v != want || e != api.OK {
+		if v, e := rows.Find(sample.Few(), key); v != want || e != api.OK {
 			t.Errorf("Find %d is %d %d, not %d", key, v, e, want)
 		}
 	}
-	l, e := rows.Put(few(), 8, 1)
+	l, e := rows.Put(sample.Few(), 8, 1)
 	want := []api.Row{{Key: 2, Val: 5}, {Key: 7, Val: 0}, {Key: 8, Val: 1}, {Key: 9, Val: 30}}
 	if e != api.OK || !slices.Equal(l, want) {
 		t.Errorf("Put is %v %d, not %v", l, e, want)
@@ -142,7 +141,7 @@ func held(l []api.Row) [api.MaxKey + 1]int {
 }
 
 func TestA2FindEveryKey(t *testing.T) {
-	for _, l := range [][]api.Row{nil, {}, {{}}, {{Key: 99, Val: 996}}, few(), even(39), even(40)} {
+	for _, l := range [][]api.Row{nil, {}, {{}}, {{Key: 99, Val: 996}}, sample.Few(), even(39), even(40)} {
 		for key, want := range held(l) {
 			if v, e := rows.Find(l, key); v != want || e != api.OK {
 				t.Errorf("Find %d in %v is %d %d, not %d", key, l, v, e, want)
@@ -152,7 +151,7 @@ func TestA2FindEveryKey(t *testing.T) {
 }
 
 func TestA2PutEveryKey(t *testing.T) {
-	for _, l := range [][]api.Row{nil, {}, {{}}, {{Key: 99, Val: 996}}, few(), even(39)} {
+	for _, l := range [][]api.Row{nil, {}, {{}}, {{Key: 99, Val: 996}}, sample.Few(), even(39)} {
 		for key := range api.MaxKey + 1 {
 			for _, val := range []int{api.None, 0, 1, 996} {
 				want := held(l)
@@ -172,7 +171,7 @@ func checkPut(t *testing.T, l []api.Row, key, val int, want [api.MaxKey + 1]int)
 }
 
 func TestA2PutValOutOfRange(t *testing.T) {
-	for _, l := range [][]api.Row{nil, few(), even(40)} {
+	for _, l := range [][]api.Row{nil, sample.Few(), even(40)} {
 		for _, key := range []int{0, 1, 7, 99} {
 			for _, val := range []int{math.MinInt, -2, 997, math.MaxInt} {
 				if x, e := rows.Put(l, key, val); len(x) > 0 || e != api.ErrRange {

@@ -7,6 +7,7 @@ import (
 
 	"pleach/api"
 	"pleach/chunk"
+	"pleach/levels"
 	"pleach/rows"
 )
 
@@ -15,22 +16,7 @@ func Build(l []api.Row) ([][][]api.Row, api.Errno) {
 	if e := rows.Check(l); e != api.OK {
 		return nil, e
 	}
-	var t [][][]api.Row
-	// A level has at most half as many chunks as rows, rounded up: this ends ahead of the last level that Cut knows.
-	for len(l) > 0 {
-		level, e := chunk.Cut(l, len(t))
-		if e != api.OK {
-			return nil, e
-		}
-		t = append(t, level)
-		if len(level) == 1 {
-			break
-		}
-		if l, e = tell(level); e != api.OK {
-			return nil, e
-		}
-	}
-	return t, api.OK
+	return levels.Of(l, chunk.Cut)
 }
 
 // Check tells whether a tree is what Build makes of its rows.
@@ -65,19 +51,6 @@ func Root(t [][][]api.Row) (int, api.Errno) {
 		top = t[len(t)-1][0]
 	}
 	return chunk.Sum(top)
-}
-
-// tell has a row for each chunk of a level: its last Key, and its Sum.
-func tell(level [][]api.Row) ([]api.Row, api.Errno) {
-	var told []api.Row
-	for _, c := range level {
-		sum, e := chunk.Sum(c)
-		if e != api.OK {
-			return nil, e
-		}
-		told = append(told, api.Row{Key: c[len(c)-1].Key, Val: sum})
-	}
-	return told, api.OK
 }
 
 // ground has the rows of level 0, one behind the other; false, if there are more than may be.

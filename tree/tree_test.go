@@ -10,48 +10,9 @@ import (
 	"pleach/api"
 	"pleach/chunk"
 	"pleach/rows"
+	"pleach/sample"
 	"pleach/tree"
 )
-
-func few() []api.Row { return []api.Row{{Key: 2, Val: 5}, {Key: 7, Val: 0}, {Key: 9, Val: 30}} }
-
-// twelve rows, those of the document's examples.
-func twelve() []api.Row {
-	var l []api.Row
-	for k := range 12 {
-		l = append(l, api.Row{Key: 3 * k, Val: k})
-	}
-	return l
-}
-
-// highest has rows of which the tree is as high as one can be: each chunk ends as early as it may.
-func highest() []api.Row {
-	var l []api.Row
-	for k, v := range []int{
-		904, 413, 198, 294, 248, 640, 331, 833, 36, 387, 162, 394, 877, 767, 294, 201, 407, 67, 144, 56,
-		7, 519, 63, 646, 448, 920, 991, 516, 900, 307, 268, 137, 969, 312, 574, 970, 500, 68, 86, 702,
-	} {
-		l = append(l, api.Row{Key: k, Val: v})
-	}
-	return l
-}
-
-// drawer draws numbers, the same ones for the same seed.
-type drawer uint64
-
-func (d *drawer) next(n int) int {
-	*d = *d*6364136223846793005 + 1442695040888963407
-	return int(uint64(*d) >> 33 % uint64(n))
-}
-
-func drawn(seed uint64, n int) []api.Row {
-	d := drawer(seed)
-	var l []api.Row
-	for k := d.next(3); k <= api.MaxKey && len(l) < n; k += 1 + d.next(3) {
-		l = append(l, api.Row{Key: k, Val: d.next(api.MaxVal + 1)})
-	}
-	return l
-}
 
 func build(t *testing.T, l []api.Row) [][][]api.Row {
 	t.Helper()
@@ -62,18 +23,9 @@ func build(t *testing.T, l []api.Row) [][][]api.Row {
 	return x
 }
 
-// sample has rows of each number, and those of the edges.
-func sample() [][]api.Row {
-	l := [][]api.Row{nil, {}, {{}}, {{Key: 99, Val: 996}}, few(), twelve(), highest()}
-	for seed := range uint64(120) {
-		l = append(l, drawn(seed, int(seed%41)))
-	}
-	return l
-}
-
 // The document's third example.
 func TestC1TwelveRowsHaveTwoLevels(t *testing.T) {
-	l := twelve()
+	l := sample.Twelve()
 	want := [][][]api.Row{
 		{l[0:4], l[4:7], l[7:10], l[10:12]},
 		{{{Key: 9, Val: 814}, {Key: 18, Val: 251}, {Key: 27, Val: 984}, {Key: 33, Val: 79}}},
@@ -87,7 +39,7 @@ func TestC1TwelveRowsHaveTwoLevels(t *testing.T) {
 }
 
 func TestC1HighestTree(t *testing.T) {
-	x := build(t, highest())
+	x := build(t, sample.Highest())
 	var chunks []int
 	for _, level := range x {
 		chunks = append(chunks, len(level))
@@ -118,7 +70,7 @@ func TestC1SmallTrees(t *testing.T) {
 		{[]api.Row{}, nil, 1},
 		{[]api.Row{{}}, [][][]api.Row{{{{}}}}, 32},
 		{[]api.Row{{Key: 1, Val: 1}}, [][][]api.Row{{{{Key: 1, Val: 1}}}}, 40},
-		{few(), [][][]api.Row{{few()}}, 805},
+		{sample.Few(), [][][]api.Row{{sample.Few()}}, 805},
 	} {
 		x, e := tree.Build(c.l)
 		if e != api.OK || len(x) != len(c.want) || len(x) > 0 && !reflect.DeepEqual(x, c.want) {
@@ -150,7 +102,7 @@ func checkLevels(t *testing.T, l []api.Row, x [][][]api.Row) {
 }
 
 func TestC1EveryLevel(t *testing.T) {
-	for _, l := range sample() {
+	for _, l := range sample.All() {
 		x := build(t, l)
 		if (len(x) == 0) != (len(l) == 0) {
 			t.Errorf("Build of %v is %v", l, x)
@@ -163,9 +115,9 @@ func TestC1EveryLevel(t *testing.T) {
 }
 
 func TestC1BuildErrors(t *testing.T) {
-	falls := few()
+	falls := sample.Few()
 	falls[1].Key = 1
-	above := few()
+	above := sample.Few()
 	above[2].Val = 997
 	for _, c := range []struct {
 		l    []api.Row
@@ -223,35 +175,14 @@ func TestC1CheckOfNoLevel(t *testing.T) {
 }
 
 func TestC1CheckOfWhatIsNoTree(t *testing.T) {
-	one := [][]api.Row{{{Key: 1, Val: 1}}}
-	many := make([]api.Row, 41)
-	for k := range many {
-		many[k].Key = k
-	}
-	wide := slices.Collect(slices.Chunk(many, 6))
-	for what, x := range map[string][][][]api.Row{
-		"a level of no chunks":      {{}},
-		"a chunk of no rows":        {{{}}},
-		"two chunks of no rows":     {{{}, {}}},
-		"levels of no chunks":       {{}, {}},
-		"one level too many":        {one, {{{Key: 1, Val: 40}}}},
-		"a level of none on top":    {one, {}},
-		"the first level is none":   {{}, one},
-		"a chunk of no rows behind": {{one[0], {}}},
-		"a chunk of no rows ahead":  {{{}, one[0]}},
-		"wrong rows":                {{{{Key: 100}}}},
-		"keys twice":                {{{{Key: 1}, {Key: 1}}}},
-		"more rows than may be":     {{many}},
-		"too many rows, cut":        {wide},
-		"far out":                   {{{{Key: math.MinInt, Val: math.MaxInt}}}},
-	} {
+	for what, x := range sample.NoTrees() {
 		checkWrong(t, what, x)
 	}
 }
 
 // Whatever is changed in a tree, it is none any more.
 func TestC1CheckOfEachChange(t *testing.T) {
-	for _, l := range [][]api.Row{few(), twelve(), highest(), drawn(3, 25)} {
+	for _, l := range [][]api.Row{sample.Few(), sample.Twelve(), sample.Highest(), sample.Drawn(3, 25)} {
 		x := build(t, l)
 		for n := range x {
 			for i := range x[n] {
@@ -320,7 +251,7 @@ func checkChunkChanges(t *testing.T, x [][][]api.Row, n, i int) {
 
 // A row of level 0 that is another makes another tree, which the levels above do not tell of.
 func TestC1CheckOfAnotherRow(t *testing.T) {
-	x := build(t, twelve())
+	x := build(t, sample.Twelve())
 	for i, c := range x[0] {
 		for j := range c {
 			for _, d := range []int{1, 3, 500} {
@@ -349,7 +280,7 @@ func TestC1CheckOfVeryManyRows(t *testing.T) {
 }
 
 func TestC2RowsAreThoseOfWhichItWasBuilt(t *testing.T) {
-	for _, l := range sample() {
+	for _, l := range sample.All() {
 		x := build(t, l)
 		if y, e := tree.Rows(x); e != api.OK || !slices.Equal(y, l) {
 			t.Errorf("Rows is %v %d, not %v", y, e, l)
@@ -358,7 +289,7 @@ func TestC2RowsAreThoseOfWhichItWasBuilt(t *testing.T) {
 }
 
 func TestC2RootIsTheLastSum(t *testing.T) {
-	for _, l := range sample() {
+	for _, l := range sample.All() {
 		x := build(t, l)
 		want := 1
 		if len(x) > 0 {
@@ -373,9 +304,9 @@ func TestC2RootIsTheLastSum(t *testing.T) {
 // Rows that were put in any order, with others that are gone again, have the tree of the same rows in one piece.
 func TestC3TheSameRowsHaveTheSameTree(t *testing.T) {
 	for seed := range uint64(60) {
-		l := drawn(seed, int(seed%40)+1)
+		l := sample.Drawn(seed, int(seed%40)+1)
 		want := build(t, l)
-		d := drawer(seed)
+		d := sample.Drawer(seed)
 		for range 4 {
 			if x := build(t, putInTurn(t, &d, l)); !reflect.DeepEqual(x, want) {
 				t.Fatalf("of %v: %v, not %v", l, x, want)
@@ -384,13 +315,9 @@ func TestC3TheSameRowsHaveTheSameTree(t *testing.T) {
 	}
 }
 
-func putInTurn(t *testing.T, d *drawer, l []api.Row) []api.Row {
+func putInTurn(t *testing.T, d *sample.Drawer, l []api.Row) []api.Row {
 	t.Helper()
-	turn := slices.Clone(l)
-	for i := range turn {
-		j := i + d.next(len(turn)-i)
-		turn[i], turn[j] = turn[j], turn[i]
-	}
+	turn := sample.Shuffled(d, l)
 	var out []api.Row
 	for _, r := range turn {
 		out = put(t, out, r.Key, (r.Val+1)%997)
