@@ -10,17 +10,25 @@ import (
 
 	"pleach/api"
 	"pleach/chunk"
+	"pleach/dag"
+	"pleach/diff"
 	"pleach/edit"
 	"pleach/rows"
+	"pleach/sample"
 	"pleach/seek"
+	"pleach/three"
 	"pleach/tree"
 )
 
 // given is what a call is handed; each takes of it what it asks for.
 type given struct {
 	Rows    []api.Row
+	Second  []api.Row
+	Third   []api.Row
 	Tree    [][][]api.Row
+	Other   [][][]api.Row
 	Changes []api.Change
+	Commits []api.Commit
 	One     int
 	Two     int
 }
@@ -49,6 +57,13 @@ func calls() []call {
 		{"seek.Range", func(g given) []any { return results(seek.Range(g.Tree, g.One, g.Two)) }},
 		{"edit.Put", func(g given) []any { return results(edit.Put(g.Tree, g.One, g.Two)) }},
 		{"edit.All", func(g given) []any { return results(edit.All(g.Tree, g.Changes)) }},
+		{"diff.Of", func(g given) []any { return results(diff.Of(g.Tree, g.Other)) }},
+		{"diff.Patch", func(g given) []any { return results(diff.Patch(g.Rows, g.Changes)) }},
+		{"diff.Back", func(g given) []any { return results(diff.Back(g.Changes)) }},
+		{"three.Merge", func(g given) []any { return results(three.Merge(g.Rows, g.Second, g.Third)) }},
+		{"dag.Check", func(g given) []any { return results(dag.Check(g.Commits)) }},
+		{"dag.Above", func(g given) []any { return results(dag.Above(g.Commits, g.One)) }},
+		{"dag.Bases", func(g given) []any { return results(dag.Bases(g.Commits, g.One, g.Two)) }},
 	}
 }
 
@@ -101,12 +116,33 @@ func someTrees() [][][][]api.Row {
 func someChanges() [][]api.Change {
 	all := [][]api.Change{
 		{}, {{Key: 4, Old: 50, New: 9}}, {{Key: 98, Old: api.None, New: 996}, {Key: 2, Old: 25, New: api.None}},
+		{{Key: 2, Old: 25, New: api.None}, {Key: 98, Old: api.None, New: 996}}, {{Key: 97, Old: api.None, New: 1}},
 		{{Key: 3, New: 7}, {Key: 3, New: 7}}, {{Key: -1}}, {{Key: 100}}, {{New: -2}}, {{New: 997}},
 		{{Key: math.MinInt, Old: math.MinInt, New: math.MinInt}, {Key: math.MaxInt, Old: math.MaxInt, New: math.MaxInt}},
 		make([]api.Change, 100), make([]api.Change, 101),
 	}
 	for i, d := range all {
 		all[i] = roomy(d, api.Change{Key: 97, Old: 96, New: 95})
+	}
+	return all
+}
+
+// someCommits has right commits and wrong ones, with spare room behind each list.
+func someCommits() [][]api.Commit {
+	all := [][]api.Commit{
+		{}, {{}}, sample.Cross(), make([]api.Commit, 14), make([]api.Commit, 15),
+		{{Parents: []int{0}}}, {{Parents: []int{-1}}}, {{}, {Parents: []int{math.MinInt, math.MaxInt}}},
+		{{}, {}, {}, {Parents: []int{0, 1, 2}}}, {{}, {}, {Parents: []int{1, 0}}},
+	}
+	for _, l := range someRows() {
+		all = append(all, []api.Commit{{}, {Rows: l, Parents: []int{0}}, {Rows: l}})
+	}
+	for i, l := range all {
+		l = roomy(l, api.Commit{Parents: []int{95}})
+		for n, c := range l {
+			l[n] = api.Commit{Rows: roomy(c.Rows, api.Row{Key: 98, Val: 77}), Parents: roomy(c.Parents, 94)}
+		}
+		all[i] = l
 	}
 	return all
 }
@@ -133,6 +169,34 @@ func some() []given {
 		}
 		for _, d := range someChanges() {
 			all = append(all, given{Tree: t, Changes: d})
+		}
+	}
+	return append(all, someTogether()...)
+}
+
+// someTogether has what is for the calls that are handed several things.
+func someTogether() []given {
+	var all []given
+	for _, l := range someRows() {
+		for _, d := range someChanges() {
+			all = append(all, given{Rows: l, Changes: d})
+		}
+		for _, second := range someRows() {
+			all = append(all, given{Rows: l, Second: second, Third: l}, given{Second: l, Third: second})
+		}
+	}
+	trees := someTrees()
+	for i, t := range trees {
+		// Each with every eighth one: all pairs would take long and show no more.
+		for j := i % 8; j < len(trees); j += 8 {
+			all = append(all, given{Tree: t, Other: trees[j]})
+		}
+	}
+	for _, l := range someCommits() {
+		for _, one := range []int{math.MinInt, -1, 0, 1, 4, 13, 14, math.MaxInt} {
+			for _, two := range []int{-1, 0, 3, 15} {
+				all = append(all, given{Commits: l, One: one, Two: two})
+			}
 		}
 	}
 	return all
@@ -248,7 +312,10 @@ func TestP2NilAndEmptyAreTheSame(t *testing.T) {
 		for _, two := range someNumbers() {
 			for _, c := range calls() {
 				a := c.run(given{One: one, Two: two})
-				b := c.run(given{Rows: []api.Row{}, Tree: [][][]api.Row{}, Changes: []api.Change{}, One: one, Two: two})
+				b := c.run(given{
+					Rows: []api.Row{}, Second: []api.Row{}, Third: []api.Row{}, Tree: [][][]api.Row{}, Other: [][][]api.Row{},
+					Changes: []api.Change{}, Commits: []api.Commit{}, One: one, Two: two,
+				})
 				for i := range a {
 					if !reflect.DeepEqual(a[i], b[i]) && !(zero(a[i]) && zero(b[i])) {
 						t.Errorf("%s: %v of nil, %v of an empty list", c.name, a, b)
@@ -338,8 +405,16 @@ func TestP4GreatLists(t *testing.T) {
 	l := make([]api.Row, 1<<22)
 	wide := given{Rows: l, Tree: [][][]api.Row{{l}}, One: 5, Two: 5}
 	checkAnswers(t, wide, api.ErrMany, "rows.Check", "rows.Find", "rows.Put", "chunk.Cut", "chunk.Sum", "tree.Build")
-	checkAnswers(t, wide, api.ErrForm, "tree.Check", "tree.Rows", "tree.Root", "seek.Find", "seek.Range", "edit.Put", "edit.All")
-	checkAnswers(t, given{Changes: make([]api.Change, 1<<20)}, api.ErrMany, "edit.All")
+	checkAnswers(t, wide, api.ErrForm, "tree.Check", "tree.Rows", "tree.Root", "seek.Find", "seek.Range", "edit.Put", "edit.All", "diff.Of")
+	checkAnswers(t, wide, api.ErrMany, "diff.Patch", "three.Merge")
+	checkAnswers(t, given{Second: l, Third: l}, api.ErrMany, "three.Merge")
+	checkAnswers(t, given{Third: l}, api.ErrMany, "three.Merge")
+	checkAnswers(t, given{Other: wide.Tree}, api.ErrForm, "diff.Of")
+	many := given{Changes: make([]api.Change, 1<<20), Commits: make([]api.Commit, 1<<20)}
+	checkAnswers(t, many, api.ErrMany, "edit.All", "dag.Check", "dag.Above", "dag.Bases")
+	checkAnswers(t, many, api.ErrForm, "diff.Patch", "diff.Back")
+	checkAnswers(t, given{Commits: []api.Commit{{}, {Parents: make([]int, 1<<22)}}}, api.ErrForm, "dag.Check", "dag.Above", "dag.Bases")
+	checkAnswers(t, given{Commits: []api.Commit{{Rows: l}}}, api.ErrMany, "dag.Check", "dag.Above", "dag.Bases")
 }
 
 // checkAnswers wants that error of the calls that are named.

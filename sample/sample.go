@@ -1,4 +1,4 @@
-// Package sample has the rows that the tests of all layers are made with. The program itself calls none of it.
+// Package sample has what the tests of all layers are made with. The program itself calls none of it.
 package sample
 
 import (
@@ -6,6 +6,7 @@ import (
 	"slices"
 
 	"pleach/api"
+	"pleach/rows"
 	"pleach/tree"
 )
 
@@ -69,6 +70,50 @@ func All() [][]api.Row {
 		l = append(l, Drawn(seed, int(seed%41)))
 	}
 	return l
+}
+
+// Turned has rows that came from others by some edits; its values are few, so that two often have the same.
+func Turned(d *Drawer, l []api.Row) []api.Row {
+	out := slices.Clone(l)
+	for range d.Next(8) {
+		key := d.Next(api.MaxKey + 1)
+		if len(out) > 0 && d.Next(2) == 0 {
+			key = out[d.Next(len(out))].Key
+		}
+		if next, e := rows.Put(out, key, d.Next(4)-1); e == api.OK {
+			out = next
+		}
+	}
+	return out
+}
+
+// Wrong has rows that are not right, and what is told of them.
+type Wrong struct {
+	What string
+	Rows []api.Row
+	Err  api.Errno
+}
+
+// WrongRows has rows that are not right, in each way.
+func WrongRows() []Wrong {
+	l := []Wrong{
+		{"a key twice", []api.Row{{Key: 7}, {Key: 7}}, api.ErrForm},
+		{"keys fall", []api.Row{{Key: 7}, {Key: 2}}, api.ErrForm},
+		{"a key below all", []api.Row{{Key: -1}}, api.ErrForm},
+		{"a key above all", []api.Row{{Key: 2}, {Key: 100}}, api.ErrForm},
+		{"a value of none", []api.Row{{Key: 2, Val: api.None}}, api.ErrForm},
+		{"a value above all", []api.Row{{Key: 2, Val: 997}}, api.ErrForm},
+		{"far out", []api.Row{{Key: math.MinInt, Val: math.MinInt}, {Key: math.MaxInt, Val: math.MaxInt}}, api.ErrForm},
+		{"as many as may be, all the same", make([]api.Row, api.MaxRows), api.ErrForm},
+		{"too many, all the same", make([]api.Row, api.MaxRows+1), api.ErrMany},
+	}
+	many := append(Highest(), api.Row{Key: 99})
+	return append(l, Wrong{"one too many", many, api.ErrMany})
+}
+
+// Cross has commits of which two came from the same two.
+func Cross() []api.Commit {
+	return []api.Commit{{}, {Rows: Few(), Parents: []int{0}}, {Parents: []int{0}}, {Parents: []int{1, 2}}, {Parents: []int{1, 2}}, {}}
 }
 
 // Tree of rows that are right.
