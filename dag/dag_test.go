@@ -191,18 +191,6 @@ func TestH2InALine(t *testing.T) {
 	}
 }
 
-// mayBeParents has all parents that the commit of a number may have.
-func mayBeParents(n int) [][]int {
-	all := [][]int{nil}
-	for q := range n {
-		all = append(all, []int{q})
-		for p := range q {
-			all = append(all, []int{p, q})
-		}
-	}
-	return all
-}
-
 // histories goes through all that n commits can have come from, behind those that are there.
 func histories(l []api.Commit, n int) iter.Seq[[]api.Commit] {
 	return func(yield func([]api.Commit) bool) {
@@ -210,7 +198,7 @@ func histories(l []api.Commit, n int) iter.Seq[[]api.Commit] {
 			yield(l)
 			return
 		}
-		for _, parents := range mayBeParents(len(l)) {
+		for _, parents := range sample.Parents(len(l)) {
 			for x := range histories(append(slices.Clone(l), api.Commit{Parents: parents}), n) {
 				if !yield(x) {
 					return
@@ -295,13 +283,7 @@ func TestH2EveryHistoryOfFiveCommits(t *testing.T) {
 func TestH2DrawnHistories(t *testing.T) {
 	most := 0
 	for seed := range uint64(300) {
-		d := sample.Drawer(seed)
-		var l []api.Commit
-		for n := range 14 {
-			all := mayBeParents(n)
-			// Those with two parents are many, and make the histories in which Bases are several.
-			l = append(l, api.Commit{Rows: sample.Few(), Parents: all[d.Next(len(all))]})
-		}
+		l := sample.History(seed, 14)
 		checkHistory(t, l)
 		for n := range l {
 			x, _ := dag.Bases(l, n, 13)

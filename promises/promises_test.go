@@ -5,6 +5,7 @@ import (
 	"math"
 	"reflect"
 	"slices"
+	"strings"
 	"sync"
 	"testing"
 
@@ -13,11 +14,13 @@ import (
 	"pleach/dag"
 	"pleach/diff"
 	"pleach/edit"
+	"pleach/repo"
 	"pleach/rows"
 	"pleach/sample"
 	"pleach/seek"
 	"pleach/three"
 	"pleach/tree"
+	"pleach/work"
 )
 
 // given is what a call is handed; each takes of it what it asks for.
@@ -29,8 +32,11 @@ type given struct {
 	Other   [][][]api.Row
 	Changes []api.Change
 	Commits []api.Commit
+	Repo    api.Repo
 	One     int
 	Two     int
+	Name    string
+	From    string
 }
 
 // call of the program, with all its results in a list.
@@ -64,6 +70,14 @@ func calls() []call {
 		{"dag.Check", func(g given) []any { return results(dag.Check(g.Commits)) }},
 		{"dag.Above", func(g given) []any { return results(dag.Above(g.Commits, g.One)) }},
 		{"dag.Bases", func(g given) []any { return results(dag.Bases(g.Commits, g.One, g.Two)) }},
+		{"repo.Check", func(g given) []any { return results(repo.Check(g.Repo)) }},
+		{"repo.Begin", func(g given) []any { return results(repo.Begin()) }},
+		{"repo.Head", func(g given) []any { return results(repo.Head(g.Repo, g.Name)) }},
+		{"repo.Log", func(g given) []any { return results(repo.Log(g.Repo, g.Name)) }},
+		{"work.Put", func(g given) []any { return results(work.Put(g.Repo, g.Name, g.Changes)) }},
+		{"work.Branch", func(g given) []any { return results(work.Branch(g.Repo, g.Name, g.From)) }},
+		{"work.Drop", func(g given) []any { return results(work.Drop(g.Repo, g.Name)) }},
+		{"work.Merge", func(g given) []any { return results(work.Merge(g.Repo, g.Name, g.From)) }},
 	}
 }
 
@@ -138,11 +152,32 @@ func someCommits() [][]api.Commit {
 		all = append(all, []api.Commit{{}, {Rows: l, Parents: []int{0}}, {Rows: l}})
 	}
 	for i, l := range all {
-		l = roomy(l, api.Commit{Parents: []int{95}})
-		for n, c := range l {
-			l[n] = api.Commit{Rows: roomy(c.Rows, api.Row{Key: 98, Val: 77}), Parents: roomy(c.Parents, 94)}
-		}
-		all[i] = l
+		all[i] = roomyCommits(l)
+	}
+	return all
+}
+
+// roomyCommits has spare room behind each list.
+func roomyCommits(l []api.Commit) []api.Commit {
+	l = roomy(l, api.Commit{Parents: []int{95}})
+	for n, c := range l {
+		l[n] = api.Commit{Rows: roomy(c.Rows, api.Row{Key: 98, Val: 77}), Parents: roomy(c.Parents, 94)}
+	}
+	return l
+}
+
+// someRepos has right repos and wrong ones, with spare room behind each list.
+func someRepos() []api.Repo {
+	three := []api.Head{{Name: "main", At: 3}, {Name: "new", At: 4}, {Name: "side", At: 1}}
+	all := []api.Repo{{}, repo.Begin(), sample.Shop(), {Commits: sample.Cross()}, {Commits: sample.Cross(), Heads: three}}
+	for _, w := range sample.WrongRepos() {
+		all = append(all, w.Repo)
+	}
+	for seed := range uint64(8) {
+		all = append(all, api.Repo{Commits: sample.History(seed, 14-int(seed%2)), Heads: []api.Head{{Name: "main", At: 11}, {Name: "side", At: 12}}})
+	}
+	for i, r := range all {
+		all[i] = api.Repo{Commits: roomyCommits(r.Commits), Heads: roomy(r.Heads, api.Head{Name: "spare", At: 2})}
 	}
 	return all
 }
@@ -196,6 +231,21 @@ func someTogether() []given {
 		for _, one := range []int{math.MinInt, -1, 0, 1, 4, 13, 14, math.MaxInt} {
 			for _, two := range []int{-1, 0, 3, 15} {
 				all = append(all, given{Commits: l, One: one, Two: two})
+			}
+		}
+	}
+	return append(all, someAtWork()...)
+}
+
+// someAtWork has what is for the calls that are handed a repo.
+func someAtWork() []given {
+	names := []string{"main", "side", "new", "S", ""}
+	changes := [][]api.Change{nil, {{Key: 2, Old: 5, New: 9}}, {{Key: 99, Old: api.None, New: 1}}, {{Key: 7, Old: 1, New: 1}}}
+	var all []given
+	for _, r := range someRepos() {
+		for i, name := range names {
+			for j, from := range names {
+				all = append(all, given{Repo: r, Name: name, From: from, Changes: roomy(changes[(i+j)%4], api.Change{Key: 97})})
 			}
 		}
 	}
@@ -269,6 +319,9 @@ func TestP1NoPanicAndZeroWithAnError(t *testing.T) {
 			if !ok || e == api.OK {
 				continue
 			}
+			if c.name == "work.Merge" && e == api.ErrClash {
+				last = 1 // the keys are told with it
+			}
 			for _, v := range answer[:last] {
 				if !zero(v) {
 					t.Errorf("%s: with error %d it answers %v", c.name, e, v)
@@ -315,6 +368,7 @@ func TestP2NilAndEmptyAreTheSame(t *testing.T) {
 				b := c.run(given{
 					Rows: []api.Row{}, Second: []api.Row{}, Third: []api.Row{}, Tree: [][][]api.Row{}, Other: [][][]api.Row{},
 					Changes: []api.Change{}, Commits: []api.Commit{}, One: one, Two: two,
+					Repo: api.Repo{Commits: []api.Commit{}, Heads: []api.Head{}},
 				})
 				for i := range a {
 					if !reflect.DeepEqual(a[i], b[i]) && !(zero(a[i]) && zero(b[i])) {
@@ -383,6 +437,10 @@ func spoil(v reflect.Value) {
 		if v.CanSet() {
 			v.SetInt(-9)
 		}
+	case reflect.String:
+		if v.CanSet() {
+			v.SetString("spoilt")
+		}
 	}
 }
 
@@ -415,6 +473,26 @@ func TestP4GreatLists(t *testing.T) {
 	checkAnswers(t, many, api.ErrForm, "diff.Patch", "diff.Back")
 	checkAnswers(t, given{Commits: []api.Commit{{}, {Parents: make([]int, 1<<22)}}}, api.ErrForm, "dag.Check", "dag.Above", "dag.Bases")
 	checkAnswers(t, given{Commits: []api.Commit{{Rows: l}}}, api.ErrMany, "dag.Check", "dag.Above", "dag.Bases")
+}
+
+func TestP4GreatRepos(t *testing.T) {
+	atWork := []string{"repo.Head", "repo.Log", "work.Put", "work.Branch", "work.Drop", "work.Merge"}
+	long := strings.Repeat("a", 1<<24)
+	for _, c := range []struct {
+		repo api.Repo
+		want api.Errno
+	}{
+		{api.Repo{Commits: make([]api.Commit, 1<<20)}, api.ErrMany},
+		{api.Repo{Commits: []api.Commit{{Rows: make([]api.Row, 1<<22)}}}, api.ErrMany},
+		{api.Repo{Commits: []api.Commit{{Parents: make([]int, 1<<22)}}}, api.ErrForm},
+		{api.Repo{Heads: make([]api.Head, 1<<22)}, api.ErrMany},
+		{api.Repo{Commits: []api.Commit{{}}, Heads: []api.Head{{Name: long}}}, api.ErrName},
+	} {
+		checkAnswers(t, given{Repo: c.repo}, c.want, append(atWork, "repo.Check")...)
+	}
+	checkAnswers(t, given{Repo: repo.Begin(), Name: long, From: long}, api.ErrNone, atWork...)
+	checkAnswers(t, given{Repo: repo.Begin(), Name: long, From: "main"}, api.ErrName, "work.Branch")
+	checkAnswers(t, given{Repo: repo.Begin(), Name: "main", Changes: make([]api.Change, 1<<20)}, api.ErrForm, "work.Put")
 }
 
 // checkAnswers wants that error of the calls that are named.

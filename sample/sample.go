@@ -4,6 +4,7 @@ package sample
 import (
 	"math"
 	"slices"
+	"strings"
 
 	"pleach/api"
 	"pleach/rows"
@@ -114,6 +115,113 @@ func WrongRows() []Wrong {
 // Cross has commits of which two came from the same two.
 func Cross() []api.Commit {
 	return []api.Commit{{}, {Rows: Few(), Parents: []int{0}}, {Parents: []int{0}}, {Parents: []int{1, 2}}, {Parents: []int{1, 2}}, {}}
+}
+
+// Parents has all parents that the commit of a number may have.
+func Parents(n int) [][]int {
+	all := [][]int{nil}
+	for q := range n {
+		all = append(all, []int{q})
+		for p := range q {
+			all = append(all, []int{p, q})
+		}
+	}
+	return all
+}
+
+// History has n commits that came from drawn ones ahead, with rows turned from those of the last one of them.
+// Those with two parents are many, and make the histories in which two have parted in several places.
+func History(seed uint64, n int) []api.Commit {
+	d := Drawer(seed)
+	var l []api.Commit
+	for len(l) < n {
+		all := Parents(len(l))
+		c := api.Commit{Rows: Few(), Parents: all[d.Next(len(all))]}
+		if last := len(c.Parents) - 1; last >= 0 {
+			c.Rows = l[c.Parents[last]].Rows
+		}
+		c.Rows = Turned(&d, c.Rows)
+		l = append(l, c)
+	}
+	return l
+}
+
+// Shop is a repo of those commits, with two heads; the one has come from the other.
+func Shop() api.Repo {
+	return api.Repo{Commits: Cross(), Heads: []api.Head{{Name: "main", At: 3}, {Name: "side", At: 1}}}
+}
+
+// WrongRepo is a repo that is not right, and what is told of it.
+type WrongRepo struct {
+	What string
+	Repo api.Repo
+	Err  api.Errno
+}
+
+// WrongRepos has repos that are not right, in each way, and with what is told first where more than one thing is wrong.
+func WrongRepos() []WrongRepo {
+	l := wrongHeads()
+	for _, w := range WrongRows() {
+		r := Shop()
+		r.Commits[4].Rows = w.Rows
+		l = append(l, WrongRepo{w.What, r, w.Err})
+		r.Heads = append(make([]api.Head, api.MaxHeads), api.Head{Name: "S", At: -1})
+		l = append(l, WrongRepo{w.What + ", and wrong heads", r, w.Err})
+	}
+	r := Shop()
+	r.Commits[4].Parents = []int{4}
+	l = append(l, WrongRepo{"a parent that is not ahead", r, api.ErrForm})
+	r.Heads = make([]api.Head, api.MaxHeads+1)
+	l = append(l, WrongRepo{"a parent that is not ahead, and too many heads", r, api.ErrForm})
+	r = Shop()
+	r.Commits = make([]api.Commit, api.MaxCommits+1)
+	l = append(l, WrongRepo{"too many commits", r, api.ErrMany})
+	r.Heads[0].Name = "Main"
+	return append(l, WrongRepo{"too many commits, and no name", r, api.ErrMany})
+}
+
+// wrongHeads has repos of right commits whose heads are not right.
+func wrongHeads() []WrongRepo {
+	head := func(name string, at int) api.Head { return api.Head{Name: name, At: at} }
+	one, two, three := head("a", 0), head("b", 5), head("bb", 3)
+	four, five := head("c", 3), head("d", 3)
+	var l []WrongRepo
+	add := func(what string, err api.Errno, heads ...api.Head) {
+		l = append(l, WrongRepo{what, api.Repo{Commits: Cross(), Heads: heads}, err})
+	}
+	add("too many heads", api.ErrMany, one, two, three, four, five)
+	add("too many heads, of no names", api.ErrMany, make([]api.Head, api.MaxHeads+1)...)
+	for _, name := range NoNames() {
+		add("no name", api.ErrName, head(name, 0))
+		add("no name ahead", api.ErrName, head(name, 0), head("zzzzzzzz", 0))
+		add("no name behind", api.ErrName, one, head(name, 0))
+		add("no name, and a head twice, at no commit", api.ErrName, head("a", 9), head("a", 9), head(name, 9))
+	}
+	add("a head twice", api.ErrForm, one, two, two)
+	add("a head twice, at two commits", api.ErrForm, one, head("b", 1), head("b", 2))
+	add("names fall", api.ErrForm, two, one)
+	add("the last name falls", api.ErrForm, one, three, two)
+	add("as many heads as may be, and the last falls", api.ErrForm, one, two, four, three)
+	add("longer names behind shorter ones", api.ErrForm, head("b", 0), head("aa", 0))
+	for _, n := range []int{-1, 6, 7, 14, math.MinInt, math.MaxInt} {
+		add("the first head at no commit", api.ErrForm, head("a", n), two)
+		add("the last head at no commit", api.ErrForm, one, head("b", n))
+	}
+	l = append(l, WrongRepo{"a head, and no commits", api.Repo{Heads: []api.Head{one}}, api.ErrForm})
+	return l
+}
+
+// NoNames has texts that are no names of heads.
+func NoNames() []string {
+	return []string{
+		"", " ", "A", "Main", "maiN", "a ", " a", "a1", "0", "a-b", "a_b", "`", "{", "a\x00", "\x00", "a\n",
+		"ninebytes", "aaaaaaaaa", strings.Repeat("z", 1000), "\xff", "a\xffb", "é", "naïve", "ａ", "a\u0301", "\ufffd",
+	}
+}
+
+// Names has texts that are names of heads, rising.
+func Names() []string {
+	return []string{"a", "aa", "aaaaaaaa", "ab", "abcdefgh", "b", "m", "main", "side", "z", "zy", "zzzzzzzz"}
 }
 
 // Tree of rows that are right.
