@@ -12,14 +12,17 @@ import (
 	"pleach/api"
 	"pleach/chunk"
 	"pleach/dag"
+	"pleach/desk"
 	"pleach/diff"
 	"pleach/edit"
+	"pleach/log"
 	"pleach/repo"
 	"pleach/rows"
 	"pleach/sample"
 	"pleach/seek"
 	"pleach/three"
 	"pleach/tree"
+	"pleach/wire"
 	"pleach/work"
 )
 
@@ -37,6 +40,12 @@ type given struct {
 	Two     int
 	Name    string
 	From    string
+	Text    string
+}
+
+// act of what is given: its kind is the first number.
+func (g given) act() api.Act {
+	return api.Act{Kind: g.One, One: g.Name, Two: g.From, Changes: g.Changes}
 }
 
 // call of the program, with all its results in a list.
@@ -78,6 +87,13 @@ func calls() []call {
 		{"work.Branch", func(g given) []any { return results(work.Branch(g.Repo, g.Name, g.From)) }},
 		{"work.Drop", func(g given) []any { return results(work.Drop(g.Repo, g.Name)) }},
 		{"work.Merge", func(g given) []any { return results(work.Merge(g.Repo, g.Name, g.From)) }},
+		{"log.Do", func(g given) []any { return results(log.Do(g.Repo, g.act())) }},
+		{"log.Write", func(g given) []any { return results(log.Write(g.act())) }},
+		{"log.Replay", func(g given) []any { return results(log.Replay(g.Text)) }},
+		{"log.Recover", func(g given) []any { return results(log.Recover(g.Text)) }},
+		{"wire.Write", func(g given) []any { return results(wire.Write(g.Repo)) }},
+		{"wire.Read", func(g given) []any { return results(wire.Read(g.Text)) }},
+		{"desk.Play", func(g given) []any { return results(desk.Play(g.Text)) }},
 	}
 }
 
@@ -245,9 +261,38 @@ func someAtWork() []given {
 	for _, r := range someRepos() {
 		for i, name := range names {
 			for j, from := range names {
-				all = append(all, given{Repo: r, Name: name, From: from, Changes: roomy(changes[(i+j)%4], api.Change{Key: 97})})
+				kind := (i + 2*j) % 6 // each, and one below them and one above
+				all = append(all, given{Repo: r, One: kind, Name: name, From: from, Changes: roomy(changes[(i+j)%4], api.Change{Key: 97})})
 			}
 		}
+	}
+	for _, b := range someTexts() {
+		all = append(all, given{Text: b})
+	}
+	return all
+}
+
+// someTexts has logs, repos as bytes and scripts, whole, cut and turned, and texts that are none of these.
+func someTexts() []string {
+	all := []string{"", "\x00", "\x00\x00", "\n", "\xff", "text", strings.Repeat("\x00", api.MaxBytes), strings.Repeat("\n", 61), strings.Repeat("\xff", api.MaxBytes+1)}
+	var whole []string
+	for seed := range uint64(12) {
+		b := ""
+		for _, x := range sample.Acts(seed, 62) {
+			one, _ := log.Write(x)
+			b += one
+		}
+		whole = append(whole, b)
+	}
+	for _, r := range append(sample.Repos()[:12], sample.Greatest()) {
+		b, _ := wire.Write(r)
+		whole = append(whole, b)
+	}
+	script := "put main 3 7\nbranch b main\nput main 3 8\nput b 3 9\nput b 5 1\nmerge main b\ndiff main b\ncut b 3\nrows b\nroot b\nlog b\ndrop main\n"
+	whole = append(whole, script, script+"x\nput x 1 1\nput b 100 1\n\n", strings.Repeat("root main\n", 60))
+	for i, b := range whole {
+		half := len(b) / 2
+		all = append(all, b, b[:half], b[half:], b+"\x00", b[:half]+string([]byte{byte(i)})+b[half:])
 	}
 	return all
 }
@@ -476,7 +521,7 @@ func TestP4GreatLists(t *testing.T) {
 }
 
 func TestP4GreatRepos(t *testing.T) {
-	atWork := []string{"repo.Head", "repo.Log", "work.Put", "work.Branch", "work.Drop", "work.Merge"}
+	atWork := []string{"repo.Head", "repo.Log", "work.Put", "work.Branch", "work.Drop", "work.Merge", "log.Do"}
 	long := strings.Repeat("a", 1<<24)
 	for _, c := range []struct {
 		repo api.Repo
@@ -488,11 +533,21 @@ func TestP4GreatRepos(t *testing.T) {
 		{api.Repo{Heads: make([]api.Head, 1<<22)}, api.ErrMany},
 		{api.Repo{Commits: []api.Commit{{}}, Heads: []api.Head{{Name: long}}}, api.ErrName},
 	} {
-		checkAnswers(t, given{Repo: c.repo}, c.want, append(atWork, "repo.Check")...)
+		checkAnswers(t, given{Repo: c.repo, One: api.ActPut}, c.want, append(atWork, "repo.Check", "wire.Write")...)
 	}
-	checkAnswers(t, given{Repo: repo.Begin(), Name: long, From: long}, api.ErrNone, atWork...)
+	checkAnswers(t, given{Repo: repo.Begin(), One: api.ActDrop, Name: long, From: long}, api.ErrNone, atWork...)
 	checkAnswers(t, given{Repo: repo.Begin(), Name: long, From: "main"}, api.ErrName, "work.Branch")
 	checkAnswers(t, given{Repo: repo.Begin(), Name: "main", Changes: make([]api.Change, 1<<20)}, api.ErrForm, "work.Put")
+}
+
+func TestP4GreatTexts(t *testing.T) {
+	for _, b := range []string{"\x00", "\xff", "a", "\n"} {
+		checkAnswers(t, given{Text: strings.Repeat(b, 1<<24)}, api.ErrMany, "log.Replay", "log.Recover", "wire.Read", "desk.Play")
+	}
+	long := strings.Repeat("a", 1<<24)
+	for _, g := range []given{{Name: long}, {From: long}, {Name: long, From: long}, {Changes: make([]api.Change, 1<<20)}} {
+		checkAnswers(t, g, api.ErrRange, "log.Write")
+	}
 }
 
 // checkAnswers wants that error of the calls that are named.

@@ -151,6 +151,67 @@ func Shop() api.Repo {
 	return api.Repo{Commits: Cross(), Heads: []api.Head{{Name: "main", At: 3}, {Name: "side", At: 1}}}
 }
 
+// SameRepo tells whether two repos are the same; a list without elements counts as none.
+func SameRepo(a, b api.Repo) bool {
+	sameCommit := func(c, d api.Commit) bool {
+		return slices.Equal(c.Rows, d.Rows) && slices.Equal(c.Parents, d.Parents)
+	}
+	return slices.EqualFunc(a.Commits, b.Commits, sameCommit) && slices.Equal(a.Heads, b.Heads)
+}
+
+// Repos has right repos: small ones, drawn ones, and the greatest there may be.
+func Repos() []api.Repo {
+	begin := api.Repo{Commits: make([]api.Commit, 1), Heads: []api.Head{{Name: "main"}}}
+	l := []api.Repo{{}, begin, Shop(), {Commits: Cross()}, Greatest()}
+	for seed := range uint64(60) {
+		d := Drawer(seed)
+		r := api.Repo{Commits: History(seed, 1+d.Next(api.MaxCommits))}
+		names := Shuffled(&d, Names())[:d.Next(api.MaxHeads+1)]
+		slices.Sort(names)
+		for _, name := range names {
+			r.Heads = append(r.Heads, api.Head{Name: name, At: d.Next(len(r.Commits))})
+		}
+		l = append(l, r)
+	}
+	return l
+}
+
+// Greatest is a repo that has as much as may be of each thing.
+func Greatest() api.Repo {
+	var r api.Repo
+	for n := range api.MaxCommits {
+		c := api.Commit{Parents: []int{n - 2, n - 1}[max(0, 2-n):]} // the first has none, and the second one
+		for k := range api.MaxRows {
+			c.Rows = append(c.Rows, api.Row{Key: api.MaxKey + 1 - api.MaxRows + k, Val: api.MaxVal})
+		}
+		r.Commits = append(r.Commits, c)
+	}
+	for _, letter := range []string{"a", "b", "c", "d"} {
+		r.Heads = append(r.Heads, api.Head{Name: strings.Repeat(letter, api.MaxName), At: api.MaxCommits - 1})
+	}
+	return r
+}
+
+// Acts has n drawn acts. Keys and values are few, so that many of them can be done, and many have an error.
+func Acts(seed uint64, n int) []api.Act {
+	d := Drawer(seed)
+	names := []string{"main", "main", "main", "side", "side", "a", "S"}
+	kinds := []int{1, 1, 1, 1, 1, 1, 1, 1, 2, 2, 2, 3, 3, 3, 4, 5}
+	var l []api.Act
+	for len(l) < n {
+		x := api.Act{Kind: kinds[d.Next(len(kinds))], One: names[d.Next(7)], Two: names[d.Next(6)]}
+		if x.Kind == api.ActDrop && d.Next(3) > 0 {
+			x.One = "side" // without main most acts would have an error
+		}
+		for key := d.Next(2); key < 3 && d.Next(8) > 0; key += 1 + d.Next(6) {
+			old := d.Next(3)
+			x.Changes = append(x.Changes, api.Change{Key: key, Old: old - 1, New: (old+1+d.Next(2))%3 - 1})
+		}
+		l = append(l, x)
+	}
+	return l
+}
+
 // WrongRepo is a repo that is not right, and what is told of it.
 type WrongRepo struct {
 	What string

@@ -87,7 +87,7 @@ func TestJ2MergesOfDrawnHistories(t *testing.T) {
 				r := api.Repo{Commits: l, Heads: []api.Head{head("main", a), head("other", 0), head("side", b)}}
 				want, keys, wantErr := wantMerge(r, 0, a, b)
 				x, clash, e := work.Merge(r, "main", "side")
-				if e != wantErr || !same(x, want) || !slices.Equal(clash, keys) {
+				if e != wantErr || !sample.SameRepo(x, want) || !slices.Equal(clash, keys) {
 					t.Errorf("seed %d: Merge of %d and %d is %v %v (%d), not %v %v (%d)", seed, a, b, x, clash, e, want, keys, wantErr)
 				}
 				seen[e]++
@@ -135,11 +135,11 @@ func TestJ2WhatTheWholePromises(t *testing.T) {
 				checkNo(t, what, x, e, e)
 				continue
 			}
-			if repo.Check(x) != api.OK || same(x, r) {
+			if repo.Check(x) != api.OK || sample.SameRepo(x, r) {
 				t.Fatalf("%s: of %v it made %v", what, r, x)
 			}
 			lost := len(x.Commits) < len(r.Commits)
-			if lost || !same(api.Repo{Commits: x.Commits[:len(r.Commits)]}, api.Repo{Commits: r.Commits}) {
+			if lost || !sample.SameRepo(api.Repo{Commits: x.Commits[:len(r.Commits)]}, api.Repo{Commits: r.Commits}) {
 				t.Fatalf("%s: commits %v are %v", what, r.Commits, x.Commits)
 			}
 			if into != "" {

@@ -12,18 +12,10 @@ import (
 	"pleach/work"
 )
 
-// same tells whether two repos are the same; a list without elements counts as none.
-func same(a, b api.Repo) bool {
-	sameCommit := func(c, d api.Commit) bool {
-		return slices.Equal(c.Rows, d.Rows) && slices.Equal(c.Parents, d.Parents)
-	}
-	return slices.EqualFunc(a.Commits, b.Commits, sameCommit) && slices.Equal(a.Heads, b.Heads)
-}
-
 // checkRepo wants a repo of a call that has no error.
 func checkRepo(t *testing.T, what string, r api.Repo, e api.Errno, want api.Repo) {
 	t.Helper()
-	if e != api.OK || !same(r, want) {
+	if e != api.OK || !sample.SameRepo(r, want) {
 		t.Errorf("%s: it is %v (%d), not %v", what, r, e, want)
 	}
 	if e := repo.Check(r); e != api.OK {
@@ -327,7 +319,7 @@ func TestJ2Clash(t *testing.T) {
 	r := parted(few, ours, theirs)
 	checkNoMerge(t, "two keys", r, "main", "side", api.ErrClash, 8, 9)
 	checkNoMerge(t, "two keys, the other way", r, "side", "main", api.ErrClash, 8, 9)
-	if !same(r, parted(few, ours, theirs)) {
+	if !sample.SameRepo(r, parted(few, ours, theirs)) {
 		t.Errorf("with a clash, it is %v", r)
 	}
 }
@@ -405,12 +397,12 @@ func TestJ2NilAndEmptyLists(t *testing.T) {
 		nils.Heads[1], empty.Heads[1] = h, h
 		want, _, e := work.Merge(nils, "main", "side")
 		x, _, f := work.Merge(empty, "main", "side")
-		if e != f || !same(x, want) {
+		if e != f || !sample.SameRepo(x, want) {
 			t.Errorf("Merge is %v (%d) of nil, %v (%d) of empty lists", want, e, x, f)
 		}
 		want, e = work.Put(nils, "side", put(1, api.None, 1))
 		x, f = work.Put(empty, "side", put(1, api.None, 1))
-		if e != api.OK || f != api.OK || !same(x, want) {
+		if e != api.OK || f != api.OK || !sample.SameRepo(x, want) {
 			t.Errorf("Put is %v (%d) of nil, %v (%d) of empty lists", want, e, x, f)
 		}
 	}
